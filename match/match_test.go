@@ -67,6 +67,9 @@ func images() [][2][]byte {
 		{a, slices.Concat(a[:500], noise(33), a[400:900], noise(5), a[2900:])}, {make([]byte, 2000), make([]byte, 2500)}, {make([]byte, 2500), make([]byte, 2000)},
 		{bytes.Repeat([]byte("ab"), 500), bytes.Repeat([]byte("ba"), 400)}, {[]byte("abc"), []byte("abcd")},
 	}
+	for _, n := range []int{20, 32, 40, 60} { // a few bytes alike, among many others
+		l = append(l, [2][]byte{a, slices.Concat(noise(300), a[1000:1000+n], noise(300))}, [2][]byte{a, slices.Concat(noise(300), a[2990:], a[:n], noise(300))})
+	}
 	for range 60 {
 		old := noise(r.Intn(400))
 		if r.Intn(2) == 0 {

@@ -39,6 +39,7 @@ func TestCheck(t *testing.T) {
 		{own, nil, 128, 1 << 31, 256, api.ErrArg}, {own, nil, 128, 256, 1 << 31, api.ErrArg}, {nil, nil, math.MinInt, math.MaxInt, math.MinInt, api.ErrArg},
 		{own, []int{0, 1}, 128, 256, 257, api.ErrOrder}, {own, []int{0, 1}, 128, 256, 128, api.ErrOrder}, {nil, nil, 128, 0, 1<<31 - 1, api.ErrOrder}, {own, []int{0}, 128, 256, 256, api.ErrOrder},
 		{own, []int{0, 0}, 128, 256, 256, api.ErrOrder}, {own, []int{0, 2}, 128, 256, 256, api.ErrOrder}, {own, []int{-1, 0}, 128, 256, 256, api.ErrOrder}, {own, []int{0, 1, 1}, 128, 256, 256, api.ErrOrder},
+		{[][]api.Step{{lit(128)}, {lit(128)}}, []int{0, 0}, 128, 256, 256, api.ErrOrder}, {[][]api.Step{{lit(128)}, {lit(128)}}, []int{1, 1}, 128, 256, 256, api.ErrOrder},
 		{cross, []int{0, 1}, 128, 256, 256, api.ErrOrder}, {cross, []int{1, 0}, 128, 256, 256, api.ErrOrder},
 		{[][]api.Step{{cp(128, 128)}, {lit(128)}}, []int{0, 1}, 128, 256, 256, api.OK}, {[][]api.Step{{cp(128, 128)}, {lit(128)}}, []int{1, 0}, 128, 256, 256, api.ErrOrder},
 		{[][]api.Step{{add(128, 128)}, {lit(128)}}, []int{1, 0}, 128, 256, 256, api.ErrOrder},
@@ -80,6 +81,7 @@ func TestFold(t *testing.T) {
 		{old, [][]api.Step{{lit(128)}, {add(0, 128)}, {cp(128, 10)}}, []int{0, 1, 2}, 266, of(7, 128, 8, 138), api.OK},
 		{old[:100], [][]api.Step{{lit(128)}, {cp(0, 100), lit(28)}}, []int{0, 1}, 256, of(7, 256), api.OK}, {old[:100], [][]api.Step{{lit(128)}, {cp(0, 101), lit(27)}}, []int{0, 1}, 256, nil, api.ErrRange},
 		{old, [][]api.Step{{cp(256, 128)}}, []int{0}, 128, nil, api.ErrRange}, {old, [][]api.Step{{lit(127)}}, []int{0}, 128, nil, api.ErrPlan}, {old, [][]api.Step{{{}}}, []int{0}, 128, nil, api.ErrForm},
+		{old, [][]api.Step{{lit(128)}, {lit(128)}}, []int{1, 1}, 256, nil, api.ErrOrder}, {old, [][]api.Step{{lit(128)}, {lit(128)}}, []int{-1, 1}, 256, nil, api.ErrOrder},
 		{old, [][]api.Step{{lit(128)}}, nil, 128, nil, api.ErrOrder}, {old, nil, nil, 128, nil, api.ErrOrder}, {old, nil, nil, -1, nil, api.ErrArg}, {old, nil, nil, 1 << 31, nil, api.ErrArg},
 	} {
 		before := bytes.Clone(c.b)
