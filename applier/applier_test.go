@@ -200,7 +200,7 @@ func TestInstall(t *testing.T) {
 					if s != want {
 						t.Fatal("P27.1: status", s, want)
 					}
-					if x.Held() > 4*128+1<<17+65536 {
+					if x.Held() > 4*128+1<<17+65536 || x.Held() < min(at, len(p.header)) {
 						t.Fatal("P27.4:", x.Held())
 					}
 					if mode != api.ModePlace {
@@ -223,6 +223,53 @@ func TestInstall(t *testing.T) {
 				}
 				isImage(t, open(t, d, k), new)
 			}
+		}
+	}
+}
+
+// P27.1: one package behind the other, each into the slot that isn't active.
+func TestAgain(t *testing.T) {
+	k := owner(t)
+	old, news := images()
+	d := device(t, old)
+	x := open(t, d, k)
+	for i, mode := range []uint8{api.ModeAB, api.ModeAB, api.ModeFull, api.ModeAB, api.ModePlace, api.ModeFull, api.ModePlace} {
+		new := news[1+i%3]
+		slot := x.Status().Active
+		p := pack(t, k, old, new, mode, 6+uint64(i))
+		if x.Begin() != api.OK || x.Feed(0, p.all[:p.ends[len(p.ends)-1]-1]) != api.OK {
+			t.Fatal("P27.1: again", i)
+		}
+		if mode != api.ModePlace {
+			isImage(t, x, old)
+		}
+		if x.Feed(x.Status().Want, p.all[len(p.all)-1:]) != api.OK || x.Commit() != api.OK || (x.Status().Active == slot) != (mode == api.ModePlace) {
+			t.Fatal("P27.1: again", i, x.Status())
+		}
+		isImage(t, x, new)
+		old = new
+	}
+}
+
+// P27.1: how often is written: a block and a record, in place twice as often.
+func TestWrites(t *testing.T) {
+	k := owner(t)
+	old, news := images()
+	for _, mode := range modes {
+		p := pack(t, k, old, news[1], mode, 6)
+		d := device(t, old)
+		x := open(t, d, k)
+		before := d.Writes()
+		x.Feed(0, p.header)
+		if d.Writes() != before+1 {
+			t.Error("P27.1: writes behind the header", mode, d.Writes()-before)
+		}
+		each := uint64(2)
+		if mode == api.ModePlace {
+			each = 4
+		}
+		if x.Feed(uint64(len(p.header)), p.all[len(p.header):p.ends[2]]) != api.OK || d.Writes() != before+1+3*each {
+			t.Error("P27.1: writes behind three chunks", mode, d.Writes()-before)
 		}
 	}
 }
@@ -549,6 +596,10 @@ func TestFormatAndOpen(t *testing.T) {
 		if c.want == api.ErrArg && (e != api.ErrArg || x != nil) {
 			t.Error("P27.1: open", i, e)
 		}
+	}
+	for _, n := range []int{1, 127, 128, 129, 1024} {
+		d := device(t, noise(9, n))
+		isImage(t, open(t, d, k), noise(9, n))
 	}
 	// What stood there doesn't count.
 	d := device(t, old)

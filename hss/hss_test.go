@@ -123,6 +123,29 @@ func TestNewErrors(t *testing.T) {
 	}
 }
 
+// P5.1, P5.2: as many levels as there may be.
+func TestEightLevels(t *testing.T) {
+	levels := []api.Level{quick, quick, quick, quick, quick, quick, quick, quick}
+	k := key(t, levels...)
+	number := uint64(0x8421084210)
+	if k.Left() != 1<<40 || k.Skip(1<<40+1) != api.ErrSpent || k.Skip(number) != api.OK || k.Left() != 1<<40-number {
+		t.Error("P5.1: left", k.Left())
+	}
+	s, e := k.Sign([]byte("x"))
+	if e != api.OK || len(s) != hss.Size(levels) || hss.Verify(k.Public(), []byte("x"), s) != api.OK {
+		t.Fatal("P5.2:", e)
+	}
+	for d, at := 0, 4; d < 8; d++ {
+		if want := byte(number >> (35 - 5*d) & 31); s[at+3] != want {
+			t.Error("P5.1: the leaf of level", d, s[at:at+4], want)
+		}
+		at += lms.Size(quick) + 56
+	}
+	if k.Skip(1<<40) != api.OK || k.Left() != 0 {
+		t.Error("P5.1: skip to the end")
+	}
+}
+
 // P5.1: which numbers are skipped to.
 func TestSkip(t *testing.T) {
 	k := key(t, quick)
@@ -156,6 +179,9 @@ func TestHuge(t *testing.T) {
 	if e != api.OK || f != api.OK || bytes.Equal(a, b) {
 		t.Error("P5.2: the same leaf", e, f)
 	}
+	if !bytes.Equal(a[4:8], []byte{0, 0, 1, 255}) || !bytes.Equal(b[4:8], []byte{0, 0, 2, 0}) || k.Next() != math.MaxUint64 {
+		t.Error("P5.1: the first level's leaves", a[4:8], b[4:8])
+	}
 	for _, s := range [][]byte{a, b} {
 		if e := hss.Verify(k.Public(), []byte("a"), s); e != api.OK {
 			t.Error("P5.2:", e)
@@ -178,17 +204,18 @@ func TestVerifyErrors(t *testing.T) {
 	p, text := k.Public(), []byte("text")
 	s, _ := k.Sign(text)
 	n := 4 + lms.Size(quick)
-	many := turn(p, 3, 2^9)
+	nine := turn(p, 3, 11) // 2 turned to 9
 	for i, c := range []struct {
 		public, sig []byte
 		want        api.Errno
 	}{
 		{nil, s, api.ErrForm}, {p[:59], s, api.ErrForm}, {append(bytes.Clone(p), 0), s, api.ErrForm},
-		{turn(p, 3, 2), s, api.ErrForm}, {many, s, api.ErrForm}, {turn(p, 0, 1), s, api.ErrForm},
+		{turn(p, 3, 2), s, api.ErrForm}, {nine, s, api.ErrForm}, {nine, turn(s, 3, 9), api.ErrForm}, {p[:59], s[:n-1], api.ErrForm}, {append(bytes.Clone(p), 0), s[:n-1], api.ErrForm}, {turn(p, 0, 1), s, api.ErrForm},
 		{p, nil, api.ErrForm}, {p, s[:3], api.ErrForm}, {p, turn(s, 3, 1), api.ErrForm}, {p, turn(s, 0, 1), api.ErrForm},
 		{turn(p, 3, 1), s, api.ErrForm},
 		{p, s[:4], api.ErrShort}, {p, s[:n-1], api.ErrShort}, {p, turn(s, 11, 16), api.ErrKind}, {p, turn(s, 4+4+3, 16)[:12], api.ErrKind},
 		{p, s[:n], api.ErrShort}, {p, s[:n+55], api.ErrShort}, {turn(p, 8, 1), s[:n+55], api.ErrShort},
+		{p, turn(s, n-1, 1)[:n+56], api.ErrSign}, {p, turn(s, n-1, 1)[:n+55], api.ErrShort},
 		{turn(p, 59, 1), s, api.ErrSign}, {turn(p, 7, 16), s, api.ErrKind}, {p, turn(s, 7, 32), api.ErrSpent}, {p, turn(s, 7, 1), api.ErrSign},
 		{p, turn(s, n+20, 1), api.ErrSign}, {p, turn(s, n+3, 16), api.ErrSign},
 		{p, s[:n+56], api.ErrShort}, {p, s[:len(s)-1], api.ErrShort}, {p, append(bytes.Clone(s), 0), api.ErrForm},

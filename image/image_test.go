@@ -113,7 +113,7 @@ func TestView(t *testing.T) {
 		want          string
 		e             api.Errno
 	}{
-		{5, 0, 5, "hello", api.OK}, {5, 1, 2, "el", api.OK}, {5, 5, 0, "", api.OK}, {5, 6, 0, "", api.ErrRange}, {5, 0, 6, "", api.ErrRange}, {5, -1, 1, "", api.ErrRange}, {5, 0, -1, "", api.ErrRange},
+		{5, 0, 5, "hello", api.OK}, {5, 1, 2, "el", api.OK}, {5, 5, 0, "", api.OK}, {5, 6, 0, "", api.ErrRange}, {5, 0, 6, "", api.ErrRange}, {5, 1, 5, "", api.ErrRange}, {5, 3, 3, "", api.ErrRange}, {5, -1, 1, "", api.ErrRange}, {5, 0, -1, "", api.ErrRange},
 		{0, 0, 0, "", api.OK}, {0, 0, 1, "", api.ErrRange}, {-1, 0, 0, "", api.OK}, {-1, 0, 1, "", api.ErrRange}, {math.MinInt, 0, 1, "", api.ErrRange}, {math.MaxInt, 768, 0, "", api.OK}, {math.MaxInt, 767, 2, "", api.ErrRange},
 		{math.MaxInt, math.MaxInt, math.MaxInt, "", api.ErrRange}, {5, math.MinInt, math.MinInt, "", api.ErrRange},
 	} {

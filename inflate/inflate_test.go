@@ -104,7 +104,7 @@ func same(t *testing.T, r *rand.Rand, p []byte, most int) {
 			if f := inflate.New(most).Write(p[:at]); e != f {
 				t.Fatal("P13.2: at", at, e, f)
 			}
-			if len(x.Out()) > most || x.Held() > 2*most+2048+2*long {
+			if len(x.Out()) > most || x.Held() > 2*most+2048+2*long || x.Held() < len(x.Out()) {
 				t.Fatal("P13.3:", len(x.Out()), x.Held(), most, long)
 			}
 			if len(rest) == 0 || e != api.OK {
@@ -275,6 +275,11 @@ func TestOut(t *testing.T) {
 	}
 	if x.Write([]byte{0}) != api.ErrForm || x.Done() || string(x.Out()) != "hello" || x.Write(nil) != api.ErrForm {
 		t.Error("P13.1: a byte more")
+	}
+	x = inflate.New(100)
+	x.Write(deflate.Stored([]byte("hello"))[:4])
+	if x.Held() < 4 {
+		t.Error("P13.1: more is held", x.Held())
 	}
 	x = inflate.New(-5)
 	if x.Write(put(1, 1, 2, 1, -8, 0x30)) != api.ErrCap || len(x.Out()) != 0 {

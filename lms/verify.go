@@ -65,11 +65,7 @@ func split(sig []byte) parts {
 
 // Take is how many bytes the signature at the front has.
 func Take(sig []byte) (n int, e api.Errno) {
-	defer func() {
-		if e = caught(recover()); e != api.OK {
-			n = 0
-		}
-	}()
+	defer func() { e = caught(recover()) }()
 	return split(sig).size, api.OK
 }
 

@@ -298,6 +298,13 @@ func TestErrors(t *testing.T) {
 			t.Error("P23.1: skip behind an error", i, e)
 		}
 	}
+	// What is held of a header that comes.
+	p := parcel.New()
+	for k := range g.header {
+		if p.Feed(g.header[k : k+1]); p.Held() < k+1 {
+			t.Fatal("P23.1: more is held", k, p.Held())
+		}
+	}
 	// The longest signature that there may be, and the most that is held.
 	big := api.Manifest{Mode: api.ModePlace, Block: 128, NewLen: 4096 * 128, Order: r.Perm(4096)}
 	h, e := manifest.Header(big, make([]byte, 1<<17-12-118-8192))
@@ -374,6 +381,9 @@ func TestNilAndMemory(t *testing.T) {
 	_, w, _ = p.Header()
 	if want, _ := manifest.Put(g.m); !bytes.Equal(w, want) || !sameChunk(p.Chunk(), g.chunks[0]) {
 		t.Error("P0.3: kept")
+	}
+	if p.Held() < len(g.header)+len(g.chunks[0].Pay)+32 {
+		t.Error("P23.1: more is held", p.Held())
 	}
 	first := p.Chunk()
 	p.Next()

@@ -11,6 +11,7 @@ import (
 	"drogher/applier"
 	"drogher/build"
 	"drogher/hss"
+	"drogher/journal"
 	"drogher/part"
 	"drogher/updater"
 )
@@ -182,7 +183,10 @@ func TestFeed(t *testing.T) {
 				t.Error("P29.1: fed none", r)
 			}
 		}
-		if r := done(t, w, feeds(0, 100)); r.N != 100 || r.Status.Want != 100 {
+		if r := done(t, w, feeds(0, 1)); r.N != 1 || w.Do(feeds(1, 1)).Err != api.ErrState || w.Do(feeds(1, 0)).Err != api.ErrState {
+			t.Error("P29.1: one byte of another package", r)
+		}
+		if r := done(t, w, feeds(0, 99)); r.N != 99 || r.Status.Want != 100 {
 			t.Error("P29.1: feed", r)
 		}
 		failed(t, w, feeds(1, 100), api.ErrState)
@@ -317,6 +321,42 @@ func TestFalls(t *testing.T) {
 	if !bytes.Equal(w.Base(), old) {
 		t.Error("P29.1: in place")
 	}
+}
+
+// P29.1: where no installer can be opened, until one can.
+func TestNone(t *testing.T) {
+	old := noise(1, 300)
+	w := world(t, old)
+	done(t, w, builds(api.ModeAB, 6, old))
+	m, _ := part.Layout(disk)
+	j, _ := journal.Open(w.Device(), m)
+	last := j.Last()
+	if j.Write(api.Record{Length: 300, State: api.Aside, Mode: api.ModePlace, AsideSize: 999}) != api.OK {
+		t.Fatal("a record")
+	}
+	none := func(a api.Act, want api.Errno) {
+		t.Helper()
+		if r := w.Do(a); !reflect.DeepEqual(r, api.Reply{Err: want}) {
+			t.Error("P29.1: without an installer", a.Kind, r)
+		}
+	}
+	none(of(api.ActFall), api.ErrRange)
+	for _, kind := range []uint8{api.ActBegin, api.ActCommit, api.ActCancel, api.ActImage} {
+		none(of(kind), api.ErrDown)
+	}
+	none(feeds(0, 5), api.ErrDown)
+	none(feeds(9, 5), api.ErrRange)
+	none(of(api.ActStatus), api.OK)
+	none(of(api.ActFuse), api.OK)
+	none(of(77), api.ErrKind)
+	w.Device().Back(nil)
+	if j.Write(last) != api.OK {
+		t.Fatal("a record")
+	}
+	if r := done(t, w, of(api.ActFall)); r.Status.Length != 300 || !bytes.Equal(w.Base(), old) {
+		t.Error("P29.1: opened again", r)
+	}
+	done(t, w, feeds(0, math.MaxInt))
 }
 
 // chance is an act by chance.
