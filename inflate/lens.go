@@ -42,7 +42,10 @@ func (p *pass) dynamic() ([]uint8, []uint8) {
 	t, e := huff.New(lens)
 	refuse(e != api.OK, api.ErrDeflate)
 	row := p.row(t, many+dists)
-	a, b := append([]uint8(nil), row[:many]...), append([]uint8(nil), row[many:]...)
+	// They are kept: in lists that have no more room than they need.
+	a, b := make([]uint8, many), make([]uint8, dists)
+	copy(a, row)
+	copy(b, row[many:])
 	refuse(!huff.May(a) || !huff.May(b), api.ErrDeflate)
 	return a, b
 }
